@@ -32,7 +32,55 @@ func TestAnyArguments(t *testing.T) {
 		if errno == split.OK && (len(paid) != 8 || place != 0) {
 			t.Fatalf("Share(%q, %v) = %v, place %d", text, owed, paid, place)
 		}
+		code, errno, place := split.Compile(text)
+		if (errno != split.OK && code != "") || (errno == split.OK && place != 0) {
+			t.Fatalf("Compile(%q) = %q %d %d", text, code, errno, place)
+		}
 	}
+}
+
+// P1, of code.
+func TestAnyCode(t *testing.T) {
+	random := rand.New(rand.NewSource(15))
+	numbers := []int{0, 1, -1, 99, most, most + 1, -most, highest, lowest}
+	for range 30000 {
+		code := anyCode(random)
+		owed := make([]int, random.Intn(11))
+		for i := range owed {
+			owed[i] = numbers[random.Intn(len(numbers))]
+		}
+		errno, place := split.Verify(code)
+		if place < 0 || place > len(code)/5 || (errno == split.OK && place != 0) {
+			t.Fatalf("Verify(%q) = %d %d", code, errno, place)
+		}
+		paid, rest, errno, place := split.Run(code, owed, numbers[random.Intn(len(numbers))])
+		if errno != split.OK && (len(paid) != 0 || rest != 0) {
+			t.Fatalf("Run(%q, %v) = %v %d beside error %d", code, owed, paid, rest, errno)
+		}
+		if errno == split.OK && (len(paid) != 8 || place != 0) {
+			t.Fatalf("Run(%q, %v) = %v, place %d", code, owed, paid, place)
+		}
+	}
+}
+
+// anyCode answers bytes of any kind, a text, instructions of any kind, or code
+// that holds.
+func anyCode(random *rand.Rand) string {
+	switch random.Intn(4) {
+	case 0:
+		return makeCode(random, random.Intn(30))
+	case 1:
+		return anyText(random)
+	case 2:
+		code := make([]byte, random.Intn(700))
+		random.Read(code)
+		return string(code)
+	}
+	code := ""
+	for range random.Intn(8) {
+		code += op("PCRHEJI"[random.Intn(7)], byte(random.Intn(10)), byte(random.Intn(10)), anyByte(random))
+	}
+	return code
 }
 
 // anyText answers bytes of any kind, bytes as they stand in policies, or a policy.
@@ -64,6 +112,23 @@ func TestLongTextsTakeNoWork(t *testing.T) {
 		}
 	}
 	runShareCases(t, []shareCase{{text, nil, -1, "[] 0 1 0"}})
+	for range 1000000 {
+		code, errno, place := split.Compile(text)
+		if code != "" || errno != split.ErrLong || place != 0 {
+			t.Fatalf("Compile of a long text = %q %d %d", code, errno, place)
+		}
+	}
+}
+
+func TestLongCodeTakesNoWork(t *testing.T) {
+	code := strings.Repeat(none, 1<<22)
+	for range 1000000 {
+		errno, place := split.Verify(code)
+		if errno != split.ErrLong || place != 0 {
+			t.Fatalf("Verify of long code = %d %d", errno, place)
+		}
+	}
+	runRunCases(t, []runCase{{code, nil, -1, "[] 0 1 0"}})
 }
 
 // P2: answers depend on the arguments alone.
@@ -71,6 +136,7 @@ func TestSameAnswersAgain(t *testing.T) {
 	random := rand.New(rand.NewSource(6))
 	type call struct {
 		text  string
+		code  string
 		owed  []int
 		money int
 	}
@@ -78,23 +144,31 @@ func TestSameAnswersAgain(t *testing.T) {
 	answers := []string{}
 	for range 500 {
 		owed, money := makeAmounts(random)
-		c := call{spoil(random, writePolicy(makePolicy(random, 3, 3))), owed, money}
+		text := spoil(random, writePolicy(makePolicy(random, 3, 3)))
+		c := call{text, anyCode(random), owed, money}
 		calls = append(calls, c)
-		answers = append(answers, answerOf(c.text, c.owed, c.money))
+		answers = append(answers, answersOf(c.text, c.code, c.owed, c.money))
 	}
 	for i := len(calls) - 1; i >= 0; i-- {
 		c := calls[i]
-		again := answerOf(c.text, c.owed, c.money)
+		again := answersOf(c.text, c.code, c.owed, c.money)
 		if again != answers[i] {
-			t.Errorf("%q, %v, %d: first %s, later %s", c.text, c.owed, c.money, answers[i], again)
+			t.Errorf("%q, %q, %v, %d: first %s, later %s", c.text, c.code, c.owed, c.money, answers[i], again)
 		}
 	}
 }
 
-func answerOf(text string, owed []int, money int) string {
-	errno, at := split.Check(text)
-	paid, rest, shareErrno, place := split.Share(text, owed, money)
-	return fmt.Sprint(errno, at, paid, rest, shareErrno, place)
+func answersOf(text, code string, owed []int, money int) string {
+	errno, place := split.Check(text)
+	answers := fmt.Sprintln(errno, place)
+	paid, rest, errno, place := split.Share(text, owed, money)
+	answers += fmt.Sprintln(paid, rest, errno, place)
+	compiled, errno, place := split.Compile(text)
+	answers += fmt.Sprintf("%q %d %d\n", compiled, errno, place)
+	errno, place = split.Verify(code)
+	answers += fmt.Sprintln(errno, place)
+	paid, rest, errno, place = split.Run(code, owed, money)
+	return answers + fmt.Sprintln(paid, rest, errno, place)
 }
 
 // P2: a list that is handed in is not changed.
@@ -112,29 +186,49 @@ func TestOwedIsNotChanged(t *testing.T) {
 		if !slices.Equal(room, before) {
 			t.Fatalf("Share(%q) changed %v to %v", text, before, room)
 		}
+		code := makeCode(random, random.Intn(10))
+		split.Run(code, owed, random.Intn(200))
+		if !slices.Equal(room, before) {
+			t.Fatalf("Run(%q) changed %v to %v", code, before, room)
+		}
 	}
 }
 
 // P2: a list that is answered is the caller's.
 func TestPaidIsTheCallers(t *testing.T) {
 	for _, text := range []string{"", "Pa", "Rabcdefgh"} {
-		owed := []int{1, 2, 3, 4, 5, 6, 7, 8}
-		first, _, _, _ := split.Share(text, owed, 36)
-		want := slices.Clone(first)
-		second, _, _, _ := split.Share(text, owed, 36)
-		for i := range first {
-			first[i] = -1
+		share := func(owed []int) []int {
+			paid, _, _, _ := split.Share(text, owed, 36)
+			return paid
 		}
-		third, _, _, _ := split.Share(text, owed, 36)
-		if !slices.Equal(second, want) || !slices.Equal(third, want) {
-			t.Errorf("Share(%q): %v and %v, want %v", text, second, third, want)
+		checkCallersList(t, text, share)
+		code := compile(t, text)
+		run := func(owed []int) []int {
+			paid, _, _, _ := split.Run(code, owed, 36)
+			return paid
 		}
-		if !slices.Equal(owed, []int{1, 2, 3, 4, 5, 6, 7, 8}) {
-			t.Errorf("Share(%q): the answer shares memory with what is owed", text)
-		}
-		owed[0] = 9
-		if !slices.Equal(second, want) {
-			t.Errorf("Share(%q): what is owed shares memory with the answer", text)
-		}
+		checkCallersList(t, code, run)
+	}
+}
+
+func checkCallersList(t *testing.T, source string, answer func(owed []int) []int) {
+	t.Helper()
+	owed := []int{1, 2, 3, 4, 5, 6, 7, 8}
+	first := answer(owed)
+	want := slices.Clone(first)
+	second := answer(owed)
+	for i := range first {
+		first[i] = -1
+	}
+	third := answer(owed)
+	if !slices.Equal(second, want) || !slices.Equal(third, want) {
+		t.Errorf("%q: %v and %v, want %v", source, second, third, want)
+	}
+	if !slices.Equal(owed, []int{1, 2, 3, 4, 5, 6, 7, 8}) {
+		t.Errorf("%q: the answer shares memory with what is owed", source)
+	}
+	owed[0] = 9
+	if !slices.Equal(second, want) {
+		t.Errorf("%q: what is owed shares memory with the answer", source)
 	}
 }

@@ -76,6 +76,14 @@ type model struct {
 	paid [8]int64
 }
 
+func newModel(owed []int) *model {
+	m := &model{}
+	for i := range owed {
+		m.owed[i] = int64(owed[i])
+	}
+	return m
+}
+
 // goThrough answers what of the money is left.
 func (m *model) goThrough(policy []node, money int64) int64 {
 	for _, n := range policy {

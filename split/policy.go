@@ -1,7 +1,8 @@
 package split
 
-// step is a step of a policy, or the end of a block. Ends of blocks stand
-// among the steps so that going through a policy needs no nesting.
+// step is a step of a policy, or the end of a block, or an instruction. Ends of
+// blocks stand among the steps so that going through a policy needs no nesting,
+// and so that its steps are, one for one, the instructions of its code.
 type step struct {
 	kind   byte          // P, C, R, H and I as in the text; E ends H's block, J ends I's first one
 	bucket int           // of P, C and I

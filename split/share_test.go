@@ -232,10 +232,7 @@ func TestShareAgainstModel(t *testing.T) {
 		}
 		tried++
 		owed, money := makeAmounts(random)
-		m := model{}
-		for i := range owed {
-			m.owed[i] = int64(owed[i])
-		}
+		m := newModel(owed)
 		rest := m.goThrough(policy, int64(money))
 		want := fmt.Sprintf("%v %d 0 0", m.paid, rest)
 		runShareCases(t, []shareCase{{text, owed, money, want}})
@@ -258,15 +255,20 @@ func TestNothingMadeOrLost(t *testing.T) {
 		if errno != split.OK || len(paid) != 8 {
 			t.Fatalf("Share(%q, %v, %d) = %v, error %d", text, owed, money, paid, errno)
 		}
-		sum := rest
-		for i := range paid {
-			if paid[i] < 0 || paid[i] > owed[i] {
-				t.Errorf("Share(%q, %v, %d) pays %d to bucket %d", text, owed, money, paid[i], i)
-			}
-			sum += paid[i]
+		checkNothingLost(t, text, owed, money, paid, rest)
+	}
+}
+
+func checkNothingLost(t *testing.T, source string, owed []int, money int, paid []int, rest int) {
+	t.Helper()
+	sum := rest
+	for i := range paid {
+		if paid[i] < 0 || paid[i] > owed[i] {
+			t.Errorf("%q, %v, %d: pays %d to bucket %d", source, owed, money, paid[i], i)
 		}
-		if rest < 0 || sum != money {
-			t.Errorf("Share(%q, %v, %d) = %v %d, together %d", text, owed, money, paid, rest, sum)
-		}
+		sum += paid[i]
+	}
+	if len(paid) != 8 || rest < 0 || sum != money {
+		t.Errorf("%q, %v, %d: pays %v, rest %d, together %d", source, owed, money, paid, rest, sum)
 	}
 }

@@ -21,6 +21,8 @@ const (
 const (
 	maxText   = 120
 	maxDepth  = 5
+	maxCode   = 600
+	maxHeld   = 5
 	maxAmount = 1000000000
 	buckets   = 8
 )
@@ -37,7 +39,12 @@ func Share(text string, owed []int, money int) ([]int, int, Errno, int) {
 	if errno != OK {
 		return nil, 0, errno, place
 	}
-	errno, place = checkAmounts(owed, money)
+	return settle(steps, owed, money)
+}
+
+// settle answers what steps pay, or the errors ErrCount and ErrRange of P4.
+func settle(steps []step, owed []int, money int) ([]int, int, Errno, int) {
+	errno, place := checkAmounts(owed, money)
 	if errno != OK {
 		return nil, 0, errno, place
 	}
@@ -48,13 +55,29 @@ func Share(text string, owed []int, money int) ([]int, int, Errno, int) {
 }
 
 // Verify checks code (P6, P7).
-func Verify(code string) (Errno, int) { return 0, 0 }
+func Verify(code string) (Errno, int) {
+	_, errno, place := load(code)
+	return errno, place
+}
 
 // Run runs code (P8).
-func Run(code string, owed []int, money int) ([]int, int, Errno, int) { return nil, 0, 0, 0 }
+func Run(code string, owed []int, money int) ([]int, int, Errno, int) {
+	steps, errno, place := load(code)
+	if errno != OK {
+		return nil, 0, errno, place
+	}
+	return settle(steps, owed, money)
+}
 
 // Compile makes code of a policy (P9).
-func Compile(text string) (string, Errno, int) { return "", 0, 0 }
+func Compile(text string) (string, Errno, int) {
+	steps, errno, place := parse(text)
+	if errno != OK {
+		return "", errno, place
+	}
+	code := encode(steps)
+	return code, OK, 0
+}
 
 // Book is what is owed, a policy, and a way back. Make it by New.
 type Book struct{}
