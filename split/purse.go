@@ -38,10 +38,11 @@ func newPurse(owed []int, money int) *purse {
 	return p
 }
 
-func (p *purse) paidList() []int {
+// listOf answers new memory each time: the list becomes the caller's (P2).
+func listOf(amounts [buckets]int) []int {
 	list := make([]int, buckets)
 	for i := 0; i < buckets; i++ {
-		list[i] = p.paid[i]
+		list[i] = amounts[i]
 	}
 	return list
 }

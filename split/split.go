@@ -24,6 +24,7 @@ const (
 	maxCode   = 600
 	maxHeld   = 5
 	maxAmount = 1000000000
+	maxPast   = 12
 	buckets   = 8
 )
 
@@ -50,7 +51,7 @@ func settle(steps []step, owed []int, money int) ([]int, int, Errno, int) {
 	}
 	p := newPurse(owed, money)
 	p.goThrough(steps)
-	paid := p.paidList()
+	paid := listOf(p.paid)
 	return paid, p.hand, OK, 0
 }
 
@@ -78,24 +79,3 @@ func Compile(text string) (string, Errno, int) {
 	code := encode(steps)
 	return code, OK, 0
 }
-
-// Book is what is owed, a policy, and a way back. Make it by New.
-type Book struct{}
-
-// New makes a book (P10).
-func New() *Book { return &Book{} }
-
-// Owed answers what is owed (P10).
-func (b *Book) Owed() []int { return nil }
-
-// Install lays a policy (P11).
-func (b *Book) Install(text string) (Errno, int) { return 0, 0 }
-
-// Charge makes more owed (P11).
-func (b *Book) Charge(bucket string, amount int) Errno { return 0 }
-
-// Pay splits a payment (P11).
-func (b *Book) Pay(money int) ([]int, int, Errno) { return nil, 0, 0 }
-
-// Undo takes the last operation back (P12).
-func (b *Book) Undo() Errno { return 0 }
